@@ -7,6 +7,7 @@ import (
 	"testing"
 
 	"hindsight/api"
+	"hindsight/sample"
 	"hindsight/tree"
 )
 
@@ -404,7 +405,7 @@ func TestB4JustTreesOfTexts(t *testing.T) {
 	r := rand.New(rand.NewSource(44))
 	count := map[api.Errno]int{}
 	for range 6000 {
-		u := randomTree(r)
+		u := sample.Tree(r.Intn)
 		for range r.Intn(3) {
 			spoilt(r, &u)
 		}
@@ -460,7 +461,7 @@ func TestP1DeepAndWide(t *testing.T) {
 func TestP2CheckOnlyReads(t *testing.T) {
 	r := rand.New(rand.NewSource(55))
 	for range 300 {
-		u := randomTree(r)
+		u := sample.Tree(r.Intn)
 		if r.Intn(2) == 0 {
 			spoilt(r, &u)
 		}

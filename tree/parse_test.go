@@ -7,6 +7,7 @@ import (
 	"testing"
 
 	"hindsight/api"
+	"hindsight/sample"
 	"hindsight/token"
 	"hindsight/tree"
 )
@@ -98,7 +99,7 @@ func TestB1RandomTrees(t *testing.T) {
 	r := rand.New(rand.NewSource(11))
 	parsed := 0
 	for range 2000 {
-		s, want := printed(randomTree(r), randomGap(r))
+		s, want := printed(sample.Tree(r.Intn), randomGap(r))
 		got, at, e := tree.Parse(s)
 		if len(s) > api.MaxText {
 			if at != 0 || e != api.ErrMany || len(got.Funcs) != 0 {
@@ -278,7 +279,7 @@ func changed(r *rand.Rand, l []string) []string {
 func TestB2AsTheGrammar(t *testing.T) {
 	r := rand.New(rand.NewSource(22))
 	for range 1500 {
-		s, _ := printed(randomTree(r), oneBlank)
+		s, _ := printed(sample.Tree(r.Intn), oneBlank)
 		tokens := changed(r, strings.Fields(s))
 		s = strings.Join(tokens, " ")
 		if len(s) > api.MaxText || len(tokens) > 400 {
@@ -335,7 +336,7 @@ func spoilExpr(e api.TreeExpr) {
 func TestP2P3AnswersAreTheCallers(t *testing.T) {
 	r := rand.New(rand.NewSource(33))
 	for range 200 {
-		s, _ := printed(randomTree(r), oneBlank)
+		s, _ := printed(sample.Tree(r.Intn), oneBlank)
 		one, at, e := tree.Parse(s)
 		two, to, f := tree.Parse(s)
 		if !same(one, two) || at != to || e != f {

@@ -1,98 +1,11 @@
 package tree_test
 
 import (
-	"math/rand"
 	"strconv"
 	"strings"
 
 	"hindsight/api"
 )
-
-// maker of trees at random, within all limits.
-type maker struct {
-	*rand.Rand
-	cmdsLeft int
-}
-
-func randomTree(r *rand.Rand) api.Tree {
-	m := maker{r, r.Intn(api.MaxCmds + 1)}
-	var t api.Tree
-	for range r.Intn(api.MaxFuncs) {
-		f := api.TreeFunc{Name: m.name(), Vars: m.vars(), Cmds: m.cmds(1), Result: m.expr(api.MaxExpr)}
-		for range m.Intn(api.MaxParams + 1) {
-			f.Params = append(f.Params, m.name())
-		}
-		t.Funcs = append(t.Funcs, f)
-	}
-	t.Funcs = append(t.Funcs, api.TreeFunc{Vars: m.vars(), Cmds: m.cmds(1)})
-	return t
-}
-
-func (m *maker) name() string {
-	return []string{"a", "b", "x", "i9", "reads", "mains", "abcdefghijkl"}[m.Intn(7)]
-}
-
-func (m *maker) vars() []api.TreeVar {
-	var l []api.TreeVar
-	for range m.Intn(api.MaxVars + 1) {
-		v := api.TreeVar{Name: m.name()}
-		if m.Intn(2) == 0 {
-			v.Size = []int{1, 8, 9, api.MaxNumber}[m.Intn(4)]
-		}
-		l = append(l, v)
-	}
-	return l
-}
-
-func (m *maker) cmds(deep int) []api.TreeCmd {
-	var l []api.TreeCmd
-	for range m.Intn(5) {
-		if m.cmdsLeft == 0 || deep > api.MaxDeep {
-			break
-		}
-		m.cmdsLeft--
-		l = append(l, m.cmd(deep))
-	}
-	return l
-}
-
-func (m *maker) cmd(deep int) api.TreeCmd {
-	c := api.TreeCmd{Kind: api.CmdSet + m.Intn(api.CmdWhile)}
-	if c.Kind <= api.CmdRead {
-		c.Name = m.name()
-	}
-	if c.Kind != api.CmdCall && c.Kind != api.CmdRead {
-		c.Expr = m.expr(api.MaxExpr)
-	}
-	switch c.Kind {
-	case api.CmdPut:
-		c.Index = m.expr(api.MaxExpr)
-	case api.CmdCall:
-		c.Other = m.name()
-		for range m.Intn(api.MaxParams + 1) {
-			c.Args = append(c.Args, m.expr(api.MaxExpr))
-		}
-	case api.CmdIf:
-		c.Then, c.Else = m.cmds(deep+1), m.cmds(deep+1)
-	case api.CmdWhile:
-		c.Then = m.cmds(deep + 1)
-	}
-	return c
-}
-
-// expr of at most so many parts.
-func (m *maker) expr(most int) api.TreeExpr {
-	switch n := m.Intn(6); {
-	case n >= 3 && most >= 3:
-		left := 1 + m.Intn(most-2)
-		return api.TreeExpr{Kind: api.ExprAdd + m.Intn(7), Args: []api.TreeExpr{m.expr(left), m.expr(most - 1 - left)}}
-	case n == 2 && most >= 2:
-		return api.TreeExpr{Kind: api.ExprCell, Name: m.name(), Args: []api.TreeExpr{m.expr(most - 1)}}
-	case n == 1:
-		return api.TreeExpr{Kind: api.ExprName, Name: m.name()}
-	}
-	return api.TreeExpr{Kind: api.ExprNumber, N: []int{0, 1, -1, 42, api.MaxNumber, -api.MaxNumber}[m.Intn(6)]}
-}
 
 // printer of trees: each call answers what it printed, with At where that stands; what can't be told is a sign that is none.
 type printer struct {
