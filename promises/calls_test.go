@@ -6,10 +6,12 @@ import (
 	"testing"
 
 	"hindsight/api"
+	"hindsight/code"
 	"hindsight/sample"
 	"hindsight/scope"
 	"hindsight/show"
 	"hindsight/token"
+	"hindsight/trace"
 	"hindsight/tree"
 )
 
@@ -38,12 +40,14 @@ func spoilt(r *rand.Rand, v reflect.Value) {
 	}
 }
 
-// orSpoilt: a value, or one that may be wrong.
+// orSpoilt: a value, or one like it that may be wrong.
 func orSpoilt[T any](r *rand.Rand, x T) T {
 	if r.Intn(2) == 0 {
-		spoilt(r, reflect.ValueOf(&x).Elem())
+		return x
 	}
-	return x
+	v := copied(reflect.ValueOf(x))
+	spoilt(r, v)
+	return v.Interface().(T)
 }
 
 func TestP1P2P3Tokens(t *testing.T) {
@@ -84,6 +88,32 @@ func TestP1P2P3Names(t *testing.T) {
 	}
 }
 
+func TestP1P2P3Traces(t *testing.T) {
+	r := rand.New(rand.NewSource(5))
+	vars := [][]int{{5}, {-3}, {1, 2, 3}, nil}
+	e := api.Expr{Kind: api.ExprMul, Args: []api.Expr{{Kind: api.ExprCell, N: 2, Args: []api.Expr{{Kind: api.ExprNumber, N: 1}}}, {Kind: api.ExprName}}}
+	for range 300 {
+		tell(t, "Eval", trace.Eval, orSpoilt(r, e), orSpoilt(r, vars))
+	}
+	for range 100 {
+		p, in := sample.Program(r.Intn), []int{3, 0, -1, 2}[:r.Intn(5)]
+		l, _ := trace.Run(p, in, 12)
+		tell(t, "trace.Run", trace.Run, orSpoilt(r, p), in, 12)
+		tell(t, "Right", trace.Right, p, orSpoilt(r, l))
+	}
+	tell(t, "trace.Run", trace.Run, api.Program{}, []int{api.Most + 1}, -1)
+}
+
+func TestP1P2P3Code(t *testing.T) {
+	r := rand.New(rand.NewSource(6))
+	for range 150 {
+		p := sample.Program(r.Intn)
+		c, _ := code.Compile(p)
+		tell(t, "Compile", code.Compile, orSpoilt(r, p))
+		tell(t, "code.Check", code.Check, orSpoilt(r, c))
+	}
+}
+
 // TestP1Whatever: calls end, and don't panic, whatever numbers there are.
 func TestP1Whatever(t *testing.T) {
 	r := rand.New(rand.NewSource(4))
@@ -91,7 +121,16 @@ func TestP1Whatever(t *testing.T) {
 		p, u := sample.Program(r.Intn), sample.Tree(r.Intn)
 		spoilt(r, reflect.ValueOf(&p).Elem())
 		spoilt(r, reflect.ValueOf(&u).Elem())
-		scope.Check(p)
+		e := scope.Check(p)
+		if l, f := trace.Run(p, []int{1}, 30); f != e || (f == api.OK) != (len(l) > 0) {
+			t.Fatalf("Run(%v): %v %d", p, l, f)
+		}
+		if c, f := code.Compile(p); f != e || f != api.OK && len(c.First) > 0 {
+			t.Fatalf("Compile(%v): %v %d", p, c, f)
+		}
+		if _, f := trace.Right(p, make([]api.Event, 1)); f != e {
+			t.Fatalf("Right(%v): %d", p, f)
+		}
 		if _, e := show.Show(u); e != tree.Check(u) {
 			t.Fatalf("Show(%v): %d", u, e)
 		}
