@@ -10,6 +10,7 @@ import (
 	"hindsight/sample"
 	"hindsight/scope"
 	"hindsight/trace"
+	"hindsight/vm"
 )
 
 func compiled(t *testing.T, p api.Program) api.Code {
@@ -29,9 +30,9 @@ func expectAlike(t *testing.T, p api.Program, in []int, fuel int) []api.Event {
 	t.Helper()
 	want, _ := trace.Run(p, in, fuel)
 	c := compiled(t, p)
-	l, wrong := runs(c, in, fuel)
-	if wrong != "" {
-		t.Fatalf("%v with %v and %d: its code %v goes astray: %s", p, in, fuel, c, wrong)
+	l, ok, e := vm.Run(c, in, fuel)
+	if !ok || e != api.OK {
+		t.Fatalf("%v with %v and %d: its code %v goes astray: %d", p, in, fuel, c, e)
 	}
 	if !slices.Equal(l, want) {
 		t.Fatalf("%v with %v and %d: its code %v does\n%v, not\n%v", p, in, fuel, c, l, want)

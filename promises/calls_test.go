@@ -7,12 +7,14 @@ import (
 
 	"hindsight/api"
 	"hindsight/code"
+	"hindsight/disk"
 	"hindsight/sample"
 	"hindsight/scope"
 	"hindsight/show"
 	"hindsight/token"
 	"hindsight/trace"
 	"hindsight/tree"
+	"hindsight/vm"
 )
 
 // spoilt: some of the numbers and texts of a value changed, so that it may be wrong.
@@ -111,6 +113,47 @@ func TestP1P2P3Code(t *testing.T) {
 		c, _ := code.Compile(p)
 		tell(t, "Compile", code.Compile, orSpoilt(r, p))
 		tell(t, "code.Check", code.Check, orSpoilt(r, c))
+	}
+}
+
+func TestP1P2P3Machines(t *testing.T) {
+	r := rand.New(rand.NewSource(7))
+	found := [2]int{}
+	for range 300 {
+		c, _ := code.Compile(sample.Program(r.Intn))
+		c, in := orSpoilt(r, c), []int{3, 0, -1, 2}[:r.Intn(5)]
+		tell(t, "vm.Run", vm.Run, c, in, 12)
+		if _, ok, _ := vm.Run(c, in, 12); ok {
+			found[0]++
+		} else {
+			found[1]++
+		}
+	}
+	if min(found[0], found[1]) < 30 {
+		t.Errorf("%v", found)
+	}
+	tell(t, "vm.Run", vm.Run, api.Code{}, []int{api.Most + 1}, -1)
+}
+
+func TestP1P2P3Disks(t *testing.T) {
+	r := rand.New(rand.NewSource(8))
+	d, _ := disk.New(3)
+	s := string(make([]byte, api.SectorSize-1))
+	for i := range 100 {
+		tell(t, "disk.New", disk.New, i-5)
+		n, letter := r.Intn(4), string([]byte{byte(i)})
+		x := orSpoilt(r, d)
+		tell(t, "disk.Check", disk.Check, x)
+		tell(t, "disk.Read", disk.Read, x, n)
+		tell(t, "disk.Write", disk.Write, x, n, s+letter)
+		tell(t, "disk.Flush", disk.Flush, x)
+		tell(t, "disk.Crash", disk.Crash, x, []bool{true, false, n == 0, true}[:r.Intn(5)])
+		if y, e := disk.Write(d, n, s+letter); e == api.OK {
+			d = y
+		}
+		if r.Intn(20) == 0 {
+			d, _ = disk.Flush(d)
+		}
 	}
 }
 

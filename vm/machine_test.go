@@ -1,8 +1,8 @@
-package code_test
+package vm_test
 
 import "hindsight/api"
 
-// machine that runs code as chapter 7 says, made as plainly as can be, to hold code against what its program does.
+// machine that runs code as chapter 7 says, made as plainly as can be, to hold Run against.
 type machine struct {
 	api.Code
 	in     []int
@@ -58,9 +58,7 @@ func (m *machine) enter(f int, args []int) {
 	for _, size := range m.Sizes[f] {
 		p.vars = append(p.vars, make([]int, max(1, size)))
 	}
-	must(len(args) <= len(p.vars), "more parameters than variables")
 	for i, a := range args {
-		must(m.Sizes[f][i] == 0, "a parameter is an array")
 		p.vars[i][0] = a
 		m.tell(p.number, m.top().at, api.EventWrite, i, 0, a)
 	}
@@ -159,6 +157,8 @@ func (m *machine) other(i api.Instr) {
 		args := make([]int, i.B)
 		for k := range args {
 			args[i.B-1-k] = m.pop()
+			must(i.B <= len(m.Sizes[i.A]), "more parameters than variables")
+			must(m.Sizes[i.A][k] == 0, "a parameter is an array")
 		}
 		if len(m.frames) == api.MaxFrames {
 			m.ends(api.EndDeep)
