@@ -7,7 +7,9 @@ import (
 
 	"hindsight/api"
 	"hindsight/code"
+	"hindsight/column"
 	"hindsight/disk"
+	"hindsight/log"
 	"hindsight/sample"
 	"hindsight/scope"
 	"hindsight/show"
@@ -155,6 +157,38 @@ func TestP1P2P3Disks(t *testing.T) {
 			d, _ = disk.Flush(d)
 		}
 	}
+}
+
+func TestP1P2P3Batches(t *testing.T) {
+	r := rand.New(rand.NewSource(9))
+	d, _ := log.Format(40)
+	for i := range 100 {
+		tell(t, "log.Format", log.Format, i-5)
+		l := sample.Events(r.Intn, r.Intn(5))
+		x := orSpoilt(r, d)
+		tell(t, "log.Append", log.Append, x, orSpoilt(r, l))
+		tell(t, "log.Open", log.Open, x)
+		then, way, e := log.Append(d, l)
+		if e != api.OK {
+			then, _ = log.Format(40)
+			way = []api.Disk{then}
+		}
+		d = way[r.Intn(len(way))]
+	}
+	tell(t, "log.Append", log.Append, d, []api.Event{{Kind: api.Most + 1}})
+	tell(t, "log.Append", log.Append, d, make([]api.Event, api.MaxBatch+1))
+}
+
+func TestP1P2P3Columns(t *testing.T) {
+	r := rand.New(rand.NewSource(10))
+	for range 200 {
+		l := orSpoilt(r, sample.Events(r.Intn, r.Intn(5)))
+		s, _ := column.Encode(l)
+		tell(t, "Encode", column.Encode, l)
+		tell(t, "Decode", column.Decode, s)
+		tell(t, "Decode", column.Decode, s[:r.Intn(len(s))])
+	}
+	tell(t, "Encode", column.Encode, []api.Event{{Kind: api.Most + 1}})
 }
 
 // TestP1Whatever: calls end, and don't panic, whatever numbers there are.

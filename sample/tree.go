@@ -1,4 +1,4 @@
-// Package sample: trees and programs to try the other packages with. Which ones, is told by draws of whoever asks.
+// Package sample: trees, programs and events to try the other packages with. Which ones, is told by draws of whoever asks.
 package sample
 
 import "hindsight/api"
