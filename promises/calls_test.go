@@ -9,10 +9,12 @@ import (
 	"hindsight/code"
 	"hindsight/column"
 	"hindsight/disk"
+	"hindsight/index"
 	"hindsight/log"
 	"hindsight/sample"
 	"hindsight/scope"
 	"hindsight/show"
+	"hindsight/state"
 	"hindsight/token"
 	"hindsight/trace"
 	"hindsight/tree"
@@ -191,6 +193,38 @@ func TestP1P2P3Columns(t *testing.T) {
 	tell(t, "Encode", column.Encode, []api.Event{{Kind: api.Most + 1}})
 }
 
+func TestP1P2P3LookingUp(t *testing.T) {
+	r := rand.New(rand.NewSource(11))
+	for range 200 {
+		l, _ := trace.Run(sample.Program(r.Intn), []int{3, 0, -1, 2}, 12)
+		l = orSpoilt(r, l)
+		kind, n, from, to := r.Intn(api.EventEnd+2), r.Intn(5)-1, r.Intn(20)-5, r.Intn(40)-5
+		tell(t, "Find", index.Find, l, kind, n, from, to)
+		tell(t, "Last", index.Last, l, kind, n, to)
+		tell(t, "Count", index.Count, l, kind, n)
+	}
+	tell(t, "Find", index.Find, make([]api.Event, api.MaxTrace+1), 0, 0, 0, 0)
+}
+
+func TestP1P2P3States(t *testing.T) {
+	const s = "func f(n) { var r; arr a 2; a[1] = n; if n { r = f((n - 1)); } return r; } main { arr b 3; var x; x = read; b[2] = x; x = f(x); x = f(0); print x; }"
+	r := rand.New(rand.NewSource(12))
+	for range 150 {
+		p := sample.Program(r.Intn)
+		if r.Intn(3) == 0 {
+			p, _, _ = scope.Program(s)
+		}
+		l, _ := trace.Run(p, []int{3, 0, -1, 2}, r.Intn(30))
+		l = orSpoilt(r, l[:len(l)-r.Intn(2)*r.Intn(len(l))])
+		p = orSpoilt(r, p)
+		tell(t, "At", state.At, p, l, r.Intn(len(l)+3)-1)
+		tell(t, "At", state.At, p, l, len(l))
+		tell(t, "History", state.History, p, l, r.Intn(4)-1, r.Intn(4)-1)
+		tell(t, "History", state.History, p, l, 0, 0)
+		tell(t, "Calls", state.Calls, p, l)
+	}
+}
+
 // TestP1Whatever: calls end, and don't panic, whatever numbers there are.
 func TestP1Whatever(t *testing.T) {
 	r := rand.New(rand.NewSource(4))
@@ -207,6 +241,12 @@ func TestP1Whatever(t *testing.T) {
 		}
 		if _, f := trace.Right(p, make([]api.Event, 1)); f != e {
 			t.Fatalf("Right(%v): %d", p, f)
+		}
+		if l, f := state.Calls(p, nil); f != e || (f == api.OK) != (len(l) > 0) {
+			t.Fatalf("Calls(%v): %v %d", p, l, f)
+		}
+		if l, f := state.At(p, nil, 0); f != e || (f == api.OK) != (len(l) > 0) {
+			t.Fatalf("At(%v): %v %d", p, l, f)
 		}
 		if _, e := show.Show(u); e != tree.Check(u) {
 			t.Fatalf("Show(%v): %d", u, e)
