@@ -11,6 +11,7 @@ import (
 	"hindsight/disk"
 	"hindsight/index"
 	"hindsight/log"
+	"hindsight/query"
 	"hindsight/sample"
 	"hindsight/scope"
 	"hindsight/show"
@@ -19,6 +20,7 @@ import (
 	"hindsight/trace"
 	"hindsight/tree"
 	"hindsight/vm"
+	"hindsight/when"
 )
 
 // spoilt: some of the numbers and texts of a value changed, so that it may be wrong.
@@ -225,6 +227,35 @@ func TestP1P2P3States(t *testing.T) {
 	}
 }
 
+func TestP1P2P3Queries(t *testing.T) {
+	r := rand.New(rand.NewSource(13))
+	for range 300 {
+		q := sample.Ask(r.Intn)
+		s, _ := query.Print(q)
+		tell(t, "query.Parse", query.Parse, s)
+		tell(t, "query.Parse", query.Parse, s[:r.Intn(len(s))])
+		q = orSpoilt(r, q)
+		l, _ := trace.Run(sample.Program(r.Intn), []int{3, 0, -1, 2}, r.Intn(12))
+		tell(t, "query.Check", query.Check, q)
+		tell(t, "query.Print", query.Print, q)
+		tell(t, "Holds", query.Holds, q, orSpoilt(r, l))
+	}
+	tell(t, "Holds", query.Holds, api.Ask{Kind: api.AskPrint}, make([]api.Event, api.MaxTrace+1))
+}
+
+func TestP1P2P3When(t *testing.T) {
+	r := rand.New(rand.NewSource(14))
+	for range 300 {
+		q := orSpoilt(r, sample.Ask(r.Intn))
+		l, _ := trace.Run(sample.Program(r.Intn), []int{3, 0, -1, 2}, r.Intn(12))
+		l = orSpoilt(r, l)
+		tell(t, "Times", when.Times, q, l, r.Intn(20)-5, r.Intn(40)-5)
+		tell(t, "First", when.First, q, l)
+		tell(t, "Spans", when.Spans, q, l)
+	}
+	tell(t, "Spans", when.Spans, api.Ask{Kind: api.AskPrint}, make([]api.Event, api.MaxTrace+1))
+}
+
 // TestP1Whatever: calls end, and don't panic, whatever numbers there are.
 func TestP1Whatever(t *testing.T) {
 	r := rand.New(rand.NewSource(4))
@@ -250,6 +281,15 @@ func TestP1Whatever(t *testing.T) {
 		}
 		if _, e := show.Show(u); e != tree.Check(u) {
 			t.Fatalf("Show(%v): %d", u, e)
+		}
+		a := sample.Ask(r.Intn)
+		spoilt(r, reflect.ValueOf(&a).Elem())
+		e = query.Check(a)
+		if h, f := query.Holds(a, make([]api.Event, 1)); f != e || (f == api.OK) != (len(h) == 1) {
+			t.Fatalf("Holds(%v): %v %d", a, h, f)
+		}
+		if _, ok, f := when.First(a, nil); f != e || ok {
+			t.Fatalf("First(%v): %v %d", a, ok, f)
 		}
 		q, at, e := scope.Resolve(u)
 		if e != api.OK && len(q.Funcs) > 0 || e == api.OK && (at != 0 || scope.Check(q) != api.OK) {

@@ -131,20 +131,26 @@ func scribble(v reflect.Value) {
 		}
 		all := v.Slice(0, v.Cap())
 		for i := range all.Len() {
-			all.Index(i).SetZero()
 			blot(all.Index(i))
 		}
 	}
 }
 
-// blot: something that is there nowhere else.
+// blot: something that was not there.
 func blot(v reflect.Value) {
 	switch v.Kind() {
+	case reflect.Bool:
+		v.SetBool(!v.Bool())
 	case reflect.Int:
 		v.SetInt(-987)
 	case reflect.String:
 		v.SetString("blot")
+	case reflect.Array:
+		blot(v.Index(0))
 	case reflect.Struct:
+		v.SetZero()
 		blot(v.Field(0))
+	default:
+		v.SetZero()
 	}
 }
