@@ -14,6 +14,7 @@ import (
 	"hindsight/query"
 	"hindsight/sample"
 	"hindsight/scope"
+	"hindsight/session"
 	"hindsight/show"
 	"hindsight/state"
 	"hindsight/token"
@@ -254,6 +255,73 @@ func TestP1P2P3When(t *testing.T) {
 		tell(t, "Spans", when.Spans, q, l)
 	}
 	tell(t, "Spans", when.Spans, api.Ask{Kind: api.AskPrint}, make([]api.Event, api.MaxTrace+1))
+}
+
+// cut: a text, or its beginning.
+func cut(r *rand.Rand, s string) string {
+	if r.Intn(4) > 0 {
+		return s
+	}
+	return s[:r.Intn(len(s))]
+}
+
+func TestP1P2P3Sessions(t *testing.T) {
+	r := rand.New(rand.NewSource(15))
+	d, _ := log.Format(30)
+	for range 200 {
+		s, in := cut(r, sample.Text(r.Intn)), []int{3, 0, -1, 2}[:r.Intn(5)]
+		ask, _ := query.Print(sample.Ask(r.Intn))
+		x := orSpoilt(r, d)
+		fuel, batch := r.Intn(12), r.Intn(10)
+		tell(t, "Record", session.Record, x, s, in, fuel, batch)
+		tell(t, "Reopen", session.Reopen, x)
+		tell(t, "Answer", session.Answer, x, s, cut(r, ask))
+		then, n, _ := session.Record(d, s, in, fuel, batch)
+		tell(t, "Answer", session.Answer, then, s, ask)
+		if n > 0 {
+			d = then
+		}
+		if n == 0 || r.Intn(3) == 0 {
+			d, _ = log.Format(4 + r.Intn(30))
+			d, _ = disk.Write(d, r.Intn(4), d.Kept[0])
+		}
+	}
+	tell(t, "Record", session.Record, d, "main {}", []int{api.Most + 1}, -1, 1)
+}
+
+// anyOf some texts: wrong ones, too.
+func anyOf(r *rand.Rand, l ...string) string { return l[r.Intn(len(l))] }
+
+// TestP1Session: with an error there is nothing beside it, but for a disk without room.
+func TestP1Session(t *testing.T) {
+	r := rand.New(rand.NewSource(16))
+	found := map[api.Errno]int{}
+	for range 2000 {
+		d, _ := log.Format(4 + r.Intn(12))
+		d = orSpoilt(r, d)
+		if r.Intn(20) == 0 {
+			d.Kept[0] = d.Kept[len(d.Kept)-1]
+		}
+		s := anyOf(r, cut(r, sample.Text(r.Intn)), "main {}", "main { while 1 {} }", "main { x = 1; }")
+		in, fuel, batch := make([]int, r.Intn(api.MaxInput+4)), r.Intn(api.MaxFuel+20)-10, r.Intn(api.MaxBatch+10)-4
+		x, n, e := session.Record(d, s, in, fuel, batch)
+		found[e]++
+		if hasDisk := len(x.Kept) > 0; hasDisk != (e == api.OK || e == api.ErrSpace) || !hasDisk && n+len(x.Written) > 0 || e == api.OK && n == 0 {
+			t.Fatalf("Record of %q: %v %d %d", s, x, n, e)
+		}
+		l, e := session.Reopen(d)
+		if e != api.OK && len(l) > 0 {
+			t.Fatalf("Reopen(%v): %v %d", d, l, e)
+		}
+		if text, f := session.Answer(d, s, anyOf(r, "print", "", "all step any", "\xff")); f != e || e != api.OK && text != "" {
+			t.Fatalf("Answer of %q: %q %d, not %d", s, text, f, e)
+		}
+	}
+	for _, e := range []api.Errno{api.OK, api.ErrForm, api.ErrMany, api.ErrRange, api.ErrState, api.ErrNone, api.ErrSpace} {
+		if found[e] < 10 {
+			t.Errorf("%v", found)
+		}
+	}
 }
 
 // TestP1Whatever: calls end, and don't panic, whatever numbers there are.

@@ -1,4 +1,4 @@
-// Package sample: trees, programs, events and queries to try the other packages with. Which ones, is told by draws of whoever asks.
+// Package sample: trees, programs, texts, events and queries to try the other packages with. Which ones, is told by draws of whoever asks.
 package sample
 
 import "hindsight/api"

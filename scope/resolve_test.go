@@ -13,67 +13,6 @@ import (
 	"hindsight/tree"
 )
 
-// namer of programs: what Resolve does, the other way.
-type namer struct{ funcs, vars []string }
-
-// named: a tree of a program, with names that are drawn; some functions have names that variables have.
-func named(r *rand.Rand, p api.Program) api.Tree {
-	var n namer
-	for range p.Funcs {
-		n.funcs = append(n.funcs, "")
-	}
-	words := strings.Fields("a b c d x y z i1 i2 reads mains abcdefghijkl")
-	for i, j := range r.Perm(len(words))[:len(p.Funcs)-1] {
-		n.funcs[i] = words[j]
-	}
-	var t api.Tree
-	for i, f := range p.Funcs {
-		n.vars = nil
-		g := api.TreeFunc{At: r.Int(), Name: n.funcs[i]}
-		for v, j := range r.Perm(len(words))[:len(f.Sizes)] {
-			n.vars = append(n.vars, words[j])
-			if v < f.Params {
-				g.Params = append(g.Params, words[j])
-			} else {
-				g.Vars = append(g.Vars, api.TreeVar{Name: words[j], Size: f.Sizes[v]})
-			}
-		}
-		g.Cmds, g.Result = n.cmds(f.Cmds), n.expr(f.Result)
-		t.Funcs = append(t.Funcs, g)
-	}
-	return t
-}
-
-func (n namer) cmds(l []api.Cmd) []api.TreeCmd {
-	var m []api.TreeCmd
-	for _, c := range l {
-		d := api.TreeCmd{Kind: c.Kind, Index: n.expr(c.Index), Expr: n.expr(c.Expr), Args: n.exprs(c.Args), Then: n.cmds(c.Then), Else: n.cmds(c.Else)}
-		if c.Kind <= api.CmdRead {
-			d.Name = n.vars[c.Var]
-		}
-		if c.Kind == api.CmdCall {
-			d.Other = n.funcs[c.Func]
-		}
-		m = append(m, d)
-	}
-	return m
-}
-
-func (n namer) exprs(l []api.Expr) []api.TreeExpr {
-	var m []api.TreeExpr
-	for _, e := range l {
-		m = append(m, n.expr(e))
-	}
-	return m
-}
-
-func (n namer) expr(e api.Expr) api.TreeExpr {
-	if e.Kind == api.ExprName || e.Kind == api.ExprCell {
-		return api.TreeExpr{Kind: e.Kind, Name: n.vars[e.N], Args: n.exprs(e.Args)}
-	}
-	return api.TreeExpr{Kind: e.Kind, N: e.N, Args: n.exprs(e.Args)}
-}
-
 // bare: a copy of a program, each list without elements nil.
 func bare(v reflect.Value) reflect.Value {
 	w := reflect.New(v.Type()).Elem()
@@ -102,7 +41,7 @@ func TestD2D3RandomPrograms(t *testing.T) {
 	short := 0
 	for range 1500 {
 		want := sample.Program(r.Intn)
-		u := named(r, want)
+		u := sample.Named(r.Intn, want)
 		got, at, e := scope.Resolve(u)
 		if !same(got, want) || at != 0 || e != api.OK {
 			t.Fatalf("Resolve(%v) = %v %d %d; want %v", u, got, at, e, want)
